@@ -411,10 +411,17 @@ func TestSwap(t *testing.T) {
 			t.Errorf("Swap(%q, %q, %q) = %q, want %q", c.s, c.from, c.to, got, c.want)
 		}
 	}
-	for _, s := range badPaths() {
-		for _, from := range []string{"", "a", ".", "..", "/", strings.Repeat("x", 61)} {
-			if got := impl.Swap(s, from, "x"); s != from && got != s {
-				t.Errorf("Swap(%q, %q, x) = %q", s, from, got)
+}
+
+// Only a path has a prefix that is replaced: any other string stays, even where it is from.
+func TestSwapOfOtherStrings(t *testing.T) {
+	tooLong := "src/d.go/" + strings.Repeat("x", 61)
+	for _, s := range append(badPaths(), tooLong) {
+		for _, from := range []string{s, "", "a", ".", "..", "/", "src", "src/d.go", strings.Repeat("x", 61)} {
+			for _, to := range []string{"c", "x/y", longPath(200), "", ".."} {
+				if got := impl.Swap(s, from, to); got != s {
+					t.Errorf("Swap(%q, %q, %q) = %q, want the first one", s, from, to, got)
+				}
 			}
 		}
 	}
