@@ -2,8 +2,7 @@ package tests
 
 import (
 	"archive/tar"
-	"errors"
-	"io"
+	"slices"
 	"strconv"
 	"strings"
 	"testing"
@@ -228,61 +227,38 @@ func TestPaxInPax(t *testing.T) {
 	checkPax(t, "an archive in an archive", s, list)
 }
 
-// The library's own reader finds the same entries.
 func TestLibraryReadsPax(t *testing.T) {
-	types := map[int]byte{impl.KFile: tar.TypeReg, impl.KDir: tar.TypeDir, impl.KSym: tar.TypeSymlink, impl.KHard: tar.TypeLink}
 	for _, list := range [][]impl.Entry{greatList(), fullList()} {
 		s, _ := impl.PutPax(list)
 		reader := tar.NewReader(strings.NewReader(s))
 		if h, err := reader.Next(); err != nil || h.Typeflag != tar.TypeXGlobalHeader || h.PAXRecords["comment"] != "crates" || len(h.PAXRecords) != 1 {
 			t.Errorf("the first header is %+v, %v", h, err)
 		}
-		for _, e := range list {
-			h, err := reader.Next()
-			if err != nil {
-				t.Fatalf("%s: %v", e.Path, err)
-			}
-			body, err := io.ReadAll(reader)
-			if err != nil || string(body) != e.Body || h.Name != e.Path || h.Linkname != e.Link || h.Typeflag != types[e.Kind] {
-				t.Errorf("the library reads %+v as %+v, %v", e, h, err)
-			}
-			if int(h.Mode) != e.Mode || h.Uid != e.Uid || h.Gid != e.Gid || int(h.ModTime.Unix()) != e.Time || h.Uname != e.User || h.Gname != e.Group {
-				t.Errorf("the library reads %+v as %+v", e, h)
-			}
-		}
-		if _, err := reader.Next(); !errors.Is(err, io.EOF) {
-			t.Errorf("behind the last entry the library reads %v", err)
+		// An entry without records is an ustar one.
+		checkLibrary(t, reader, list, tar.FormatPAX|tar.FormatUSTAR)
+	}
+}
+
+// checkRefused fails unless the writer refuses all invalid lists.
+func checkRefused(t *testing.T, name string, put func([]impl.Entry) (string, bool)) {
+	t.Helper()
+	lists := greatInvalidLists()
+	for i, e := range slices.DeleteFunc(manyEntries(), isEntry) {
+		number := " " + impl.DecText(i)
+		lists["an invalid entry"+number] = []impl.Entry{e}
+		lists["an invalid last entry"+number] = []impl.Entry{file("a/f", ""), dir("z"), e}
+		lists["an invalid first entry"+number] = []impl.Entry{e, file("z", "")}
+	}
+	if len(lists) < 300 {
+		t.Errorf("there are only %d invalid lists", len(lists))
+	}
+	for what, list := range lists {
+		if s, ok := put(list); s != "" || ok {
+			t.Errorf("%s of %s has %d bytes, %v", name, what, len(s), ok)
 		}
 	}
 }
 
 func TestPutPaxRefuses(t *testing.T) {
-	check := func(name string, list []impl.Entry) {
-		t.Helper()
-		if s, ok := impl.PutPax(list); s != "" || ok {
-			t.Errorf("PutPax of %s has %d bytes, %v", name, len(s), ok)
-		}
-	}
-	check("31 entries", files(31))
-	check("60 entries", files(60))
-	check("31 entries with records", append(greatList(), file("z", "")))
-	check("a Path twice", []impl.Entry{file("a", ""), dir("a")})
-	check("a long Path twice", []impl.Entry{file(deepPath("f"), ""), dir(deepPath("f"))})
-	check("a hard link ahead of its file", []impl.Entry{hard("h", "f"), file("f", "")})
-	check("a hard link to nothing", []impl.Entry{hard(deepPath("h"), "f")})
-	check("a hard link to a directory", []impl.Entry{dir("d"), hard("h", "d")})
-	check("a hard link to itself", []impl.Entry{file("f", ""), hard(deepPath("f"), deepPath("f"))})
-	refused := 0
-	for _, e := range manyEntries() {
-		if isEntry(e) {
-			continue
-		}
-		refused++
-		check("an invalid entry", []impl.Entry{e})
-		check("an invalid last entry", []impl.Entry{file("a/f", ""), dir("z"), e})
-		check("an invalid first entry", []impl.Entry{e, file("z", "")})
-	}
-	if refused < 100 {
-		t.Errorf("only %d entries are invalid", refused)
-	}
+	checkRefused(t, "PutPax", impl.PutPax)
 }

@@ -110,32 +110,15 @@ func TestPaxCutAtEveryLength(t *testing.T) {
 }
 
 func TestPaxEnd(t *testing.T) {
-	nuls := strings.Repeat("\x00", 4096)
+	end := strings.Repeat("\x00", 1024)
 	for _, list := range [][]impl.Entry{nil, {dir("d")}, paxList()} {
-		members := strings.TrimSuffix(paxOf(list), nuls[:1024])
-		for _, c := range []struct {
-			name, end string
-			want      int
-		}{
-			{"nothing", "", impl.RdEnd},
-			{"one NUL", nuls[:1], impl.RdCut},
-			{"511 NULs", nuls[:511], impl.RdCut},
-			{"one block", nuls[:512], impl.RdEnd},
-			{"1023 NULs", nuls[:1023], impl.RdEnd},
-			{"1025 NULs", nuls[:1025], impl.RdEnd},
-			{"three blocks", nuls[:1536], impl.RdEnd},
-			{"eight blocks", nuls, impl.RdEnd},
-			{"two blocks and a byte", nuls[:1024] + "x", impl.RdEnd},
-			{"two blocks and an entry", nuls[:1024] + recordOf(dir("z")), impl.RdEnd},
-			{"one block and an archive", nuls[:512] + paxOf(nil), impl.RdEnd},
-			{"a byte in the second block", nuls[:512] + "x" + nuls[:511], impl.RdEnd},
-			{"a byte in the first block", nuls[:511] + "x" + nuls[:512], impl.RdSum},
-		} {
-			checkNoPax(t, "an archive that ends with "+c.name, members+c.end, c.want)
+		members := strings.TrimSuffix(paxOf(list), end)
+		for _, wrong := range wrongEnds(recordOf(dir("z")), paxOf(nil)) {
+			checkNoPax(t, "an archive that ends with "+wrong.name, members+wrong.text, wrong.want)
 			// It counts ahead of what is wrong with the entries.
-			checkNoPax(t, "a wrong one that ends with "+c.name, specialOf("x", "pax_x", "text")+members+c.end, c.want)
+			checkNoPax(t, "a wrong one that ends with "+wrong.name, specialOf("x", "pax_x", "text")+members+wrong.text, wrong.want)
 		}
-		checkPax(t, "an archive with its end", members+nuls[:1024], list)
+		checkPax(t, "an archive with its end", members+end, list)
 	}
 }
 
@@ -336,21 +319,18 @@ func TestPaxUnknownFlags(t *testing.T) {
 	checkNoPax(t, "a GNU header", global+specialOf("L", "long", "name\x00")+plain+strings.Repeat("\x00", 1024), impl.RdBad)
 }
 
+// greatInvalidLists returns invalid lists for which an ustar header does not do, besides the others.
+func greatInvalidLists() map[string][]impl.Entry {
+	lists := invalidLists()
+	lists["a long Path twice"] = []impl.Entry{file(deepPath("a"), "1"), dir(deepPath("a"))}
+	lists["a long hard link to nothing"] = []impl.Entry{file("a", ""), hard(deepPath("a"), "b")}
+	lists["a long hard link to itself"] = []impl.Entry{file("f", ""), hard(deepPath("f"), deepPath("f"))}
+	lists["31 entries of every kind"] = append(greatList(), dir("z"))
+	return lists
+}
+
 func TestPaxOfAnInvalidList(t *testing.T) {
-	full := dir("full")
-	full.Body = "data"
-	for name, list := range map[string][]impl.Entry{
-		"a Path twice":                  {file("a", "1"), dir("d"), file("a", "2")},
-		"a long Path twice":             {file(deepPath("a"), "1"), dir(deepPath("a"))},
-		"a hard link ahead of its file": {hard("h", "a"), file("a", "")},
-		"a hard link to nothing":        {file("a", ""), hard(deepPath("a"), "b")},
-		"a hard link to a directory":    {dir("d"), hard("h", "d")},
-		"a hard link to a hard link":    {file("a", ""), hard("g", "a"), hard("h", "g")},
-		"a directory with data":         {full},
-		"31 entries":                    files(31),
-		"60 entries":                    files(60),
-		"31 entries with records":       append(greatList(), dir("z")),
-	} {
+	for name, list := range greatInvalidLists() {
 		checkBadPax(t, name, strings.TrimSuffix(paxOf(list), strings.Repeat("\x00", 1024)))
 	}
 	checkPax(t, "30 entries", paxOf(files(30)), files(30))
@@ -392,26 +372,10 @@ func TestPaxOfAnyMembers(t *testing.T) {
 		globalOf(), recordOf(file("a", "hello")), paxRecordOf(great), recordsOf(impl.Record{Key: "uid", Value: "2097152"}), recordOf(hard("h", "a")), paxRecordOf(hard(deepPath("a"), "a")),
 		specialOf("?", "a", "x"), recordOf(file("a", "hello"))[:512], strings.Repeat("\x00", 512), strings.Repeat("\x00", 1024), paxOf(nil), "x",
 	}
-	archives := []string{""}
 	accepted := 0
-	for range 5 {
-		var longer []string
-		for _, s := range archives {
-			for _, part := range parts {
-				longer = append(longer, s+part)
-			}
-		}
-		archives = longer
-		for _, s := range archives {
-			if judgePax(t, s) == impl.RdOk {
-				accepted++
-			}
-		}
-		if len(archives) > 1500 {
-			// Enough of them for another round are those that begin well.
-			archives = slices.DeleteFunc(archives, func(s string) bool { return !strings.HasPrefix(s, globalOf()) })
-			rand.New(rand.NewSource(1)).Shuffle(len(archives), func(i int, j int) { archives[i], archives[j] = archives[j], archives[i] })
-			archives = archives[:min(len(archives), 1500)]
+	for s := range mixes(parts, globalOf()) {
+		if judgePax(t, s) == impl.RdOk {
+			accepted++
 		}
 	}
 	if accepted < 10 {

@@ -1,7 +1,9 @@
 package tests
 
 import (
+	"iter"
 	"math/rand"
+	"slices"
 	"strings"
 	"testing"
 
@@ -41,35 +43,44 @@ func TestCutAtEveryLength(t *testing.T) {
 	checkRead(t, "the whole archive", s, list, impl.RdOk)
 }
 
-func TestEndOfAnArchive(t *testing.T) {
+// wrongEnd is what stands in place of the end of an archive, and the code that it gives.
+type wrongEnd struct {
+	name, text string
+	want       int
+}
+
+// wrongEnds returns wrong ends, some of them with a record or a whole archive of the format.
+func wrongEnds(record string, archive string) []wrongEnd {
 	nuls := strings.Repeat("\x00", 4096)
+	return []wrongEnd{
+		{"nothing", "", impl.RdEnd},
+		{"one NUL", nuls[:1], impl.RdCut},
+		{"511 NULs", nuls[:511], impl.RdCut},
+		{"one block", nuls[:512], impl.RdEnd},
+		{"a block and a NUL", nuls[:513], impl.RdEnd},
+		{"1023 NULs", nuls[:1023], impl.RdEnd},
+		{"1025 NULs", nuls[:1025], impl.RdEnd},
+		{"three blocks", nuls[:1536], impl.RdEnd},
+		{"eight blocks", nuls, impl.RdEnd},
+		{"two blocks and a byte", nuls[:1024] + "x", impl.RdEnd},
+		{"two blocks and an entry", nuls[:1024] + record, impl.RdEnd},
+		{"one block and an entry", nuls[:512] + record, impl.RdEnd},
+		{"one block and a whole archive", nuls[:512] + archive, impl.RdEnd},
+		{"a byte in the second block", nuls[:512] + "x" + nuls[:511], impl.RdEnd},
+		{"a last byte", nuls[:1023] + "\x01", impl.RdEnd},
+		{"a first byte", "x" + nuls[:1023], impl.RdSum},
+		{"a byte in the first block", nuls[:511] + "x" + nuls[:512], impl.RdSum},
+	}
+}
+
+func TestEndOfAnArchive(t *testing.T) {
+	end := strings.Repeat("\x00", 1024)
 	for _, list := range [][]impl.Entry{nil, {dir("d")}, shortList()} {
-		records := strings.TrimSuffix(archiveOf(list), nuls[:1024])
-		for _, c := range []struct {
-			name, end string
-			want      int
-		}{
-			{"nothing", "", impl.RdEnd},
-			{"one NUL", nuls[:1], impl.RdCut},
-			{"511 NULs", nuls[:511], impl.RdCut},
-			{"one block", nuls[:512], impl.RdEnd},
-			{"a block and a NUL", nuls[:513], impl.RdEnd},
-			{"1023 NULs", nuls[:1023], impl.RdEnd},
-			{"two blocks", nuls[:1024], impl.RdOk},
-			{"1025 NULs", nuls[:1025], impl.RdEnd},
-			{"three blocks", nuls[:1536], impl.RdEnd},
-			{"eight blocks", nuls, impl.RdEnd},
-			{"two blocks and a byte", nuls[:1024] + "x", impl.RdEnd},
-			{"two blocks and an entry", nuls[:1024] + recordOf(dir("z")), impl.RdEnd},
-			{"one block and an entry", nuls[:512] + recordOf(dir("z")), impl.RdEnd},
-			{"one block and a whole archive", nuls[:512] + archiveOf(nil), impl.RdEnd},
-			{"a byte in the second block", nuls[:512] + "x" + nuls[:511], impl.RdEnd},
-			{"a last byte", nuls[:1023] + "\x01", impl.RdEnd},
-			{"a first byte", "x" + nuls[:1023], impl.RdSum},
-			{"a byte in the first block", nuls[:511] + "x" + nuls[:512], impl.RdSum},
-		} {
-			checkRead(t, "an archive that ends with "+c.name, records+c.end, list, c.want)
+		records := strings.TrimSuffix(archiveOf(list), end)
+		for _, wrong := range wrongEnds(recordOf(dir("z")), archiveOf(nil)) {
+			checkRead(t, "an archive that ends with "+wrong.name, records+wrong.text, list, wrong.want)
 		}
+		checkRead(t, "an archive with its end", records+end, list, impl.RdOk)
 	}
 }
 
@@ -121,15 +132,15 @@ func TestBadHeaderInAnArchive(t *testing.T) {
 	checkRead(t, "a short text", "not an archive", nil, impl.RdCut)
 }
 
-// After the end the list is judged; all of its entries have been read then.
-func TestArchiveOfAnInvalidList(t *testing.T) {
+// invalidLists returns invalid lists whose entries all have headers.
+func invalidLists() map[string][]impl.Entry {
 	full := dir("full")
 	full.Body = "data"
 	tail := sym("s", "x")
 	tail.Body = strings.Repeat("d", 512)
 	tied := hard("h", "a")
 	tied.Body = "hello"
-	for name, list := range map[string][]impl.Entry{
+	return map[string][]impl.Entry{
 		"a Path twice":                  {file("a", "1"), dir("d"), file("a", "2")},
 		"equal entries":                 {dir("d"), dir("d")},
 		"a hard link ahead of its file": {hard("h", "a"), file("a", "")},
@@ -141,7 +152,12 @@ func TestArchiveOfAnInvalidList(t *testing.T) {
 		"a hard link with data":         {file("a", ""), tied, dir("d")},
 		"31 entries":                    files(31),
 		"60 entries":                    files(60),
-	} {
+	}
+}
+
+// After the end the list is judged; all of its entries have been read then.
+func TestArchiveOfAnInvalidList(t *testing.T) {
+	for name, list := range invalidLists() {
 		s := archiveOf(list)
 		checkRead(t, name, s, list, impl.RdBad)
 		// What happens up to the end counts first.
@@ -193,31 +209,42 @@ func TestAcceptedArchiveIsWritten(t *testing.T) {
 	}
 }
 
+// mixes yields archives of up to five parts in any order. Of many that begin in that way some are taken for the next part.
+func mixes(parts []string, beginning string) iter.Seq[string] {
+	const most = 1500
+	random := rand.New(rand.NewSource(1))
+	return func(yield func(string) bool) {
+		archives := []string{""}
+		for range 5 {
+			var longer []string
+			for _, s := range archives {
+				for _, part := range parts {
+					longer = append(longer, s+part)
+					if !yield(s + part) {
+						return
+					}
+				}
+			}
+			archives = longer
+			if len(archives) > most {
+				archives = slices.DeleteFunc(archives, func(s string) bool { return !strings.HasPrefix(s, beginning) })
+				random.Shuffle(len(archives), func(i int, j int) { archives[i], archives[j] = archives[j], archives[i] })
+				archives = archives[:min(len(archives), most)]
+			}
+		}
+	}
+}
+
 // Archives of blocks in any order: only those that PutUstar writes are accepted.
 func TestArchivesOfAnyBlocks(t *testing.T) {
 	blocks := []string{
 		recordOf(file("a", "")), recordOf(file("a", "hello")), recordOf(hard("h", "a")), recordOf(dir("d")),
 		recordOf(file("a", "hello"))[:512], strings.Repeat("\x00", 512), "hello" + strings.Repeat("\x00", 507), "hello", rewritten(recordOf(dir("x")), 124, "00000000005"),
 	}
-	archives := []string{""}
 	accepted := 0
-	for range 5 {
-		var longer []string
-		for _, s := range archives {
-			for _, b := range blocks {
-				longer = append(longer, s+b)
-			}
-		}
-		archives = longer
-		for _, s := range archives {
-			if judge(t, s) == impl.RdOk {
-				accepted++
-			}
-		}
-		if len(archives) > 2000 {
-			// Enough of them for another round.
-			rand.New(rand.NewSource(1)).Shuffle(len(archives), func(i int, j int) { archives[i], archives[j] = archives[j], archives[i] })
-			archives = archives[:2000]
+	for s := range mixes(blocks, "") {
+		if judge(t, s) == impl.RdOk {
+			accepted++
 		}
 	}
 	if accepted < 10 {

@@ -287,6 +287,27 @@ func headOf(e impl.Entry, flag string, size int) string {
 		"0000000\x000000000\x00" + text(prefix, 155) + strings.Repeat("\x00", 12))
 }
 
+type headField struct {
+	name     string
+	from, to int
+	want     string
+}
+
+// checkFields fails unless the fields stand one behind the other in a header.
+func checkFields(t *testing.T, header string, fields []headField) {
+	t.Helper()
+	at := 0
+	for _, f := range fields {
+		if got := header[f.from:f.to]; got != f.want || f.from != at {
+			t.Errorf("%s is %q, want %q", f.name, got, f.want)
+		}
+		at = f.to
+	}
+	if at != len(header) {
+		t.Errorf("the header has %d bytes", len(header))
+	}
+}
+
 func TestPutHeadFields(t *testing.T) {
 	path := pathOf(60, 37, 56, 44)
 	e := impl.Entry{Kind: impl.KSym, Path: path, Link: "../to", Mode: 0o1755, Uid: 0o123, Gid: 0o7654321, Time: 0o12345670123, User: "ann", Group: strings.Repeat("g", 20)}
@@ -295,11 +316,7 @@ func TestPutHeadFields(t *testing.T) {
 		t.Fatalf("the header has %d bytes", len(header))
 	}
 	nuls := func(n int) string { return strings.Repeat("\x00", n) }
-	fields := []struct {
-		name     string
-		from, to int
-		want     string
-	}{
+	checkFields(t, header, []headField{
 		{"name", 0, 100, path[156:] + nuls(56)},
 		{"Mode", 100, 108, "0001755\x00"},
 		{"Uid", 108, 116, "0000123\x00"},
@@ -316,14 +333,7 @@ func TestPutHeadFields(t *testing.T) {
 		{"minor", 337, 345, "0000000\x00"},
 		{"prefix", 345, 500, path[:155]},
 		{"rest", 500, 512, nuls(12)},
-	}
-	at := 0
-	for _, f := range fields {
-		if got := header[f.from:f.to]; got != f.want || f.from != at {
-			t.Errorf("%s is %q, want %q", f.name, got, f.want)
-		}
-		at = f.to
-	}
+	})
 }
 
 func TestPutHeadOfManyEntries(t *testing.T) {
