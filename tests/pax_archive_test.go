@@ -239,9 +239,8 @@ func TestLibraryReadsPax(t *testing.T) {
 	}
 }
 
-// checkRefused fails unless the writer refuses all invalid lists.
-func checkRefused(t *testing.T, name string, put func([]impl.Entry) (string, bool)) {
-	t.Helper()
+// allInvalidLists returns invalid lists, those with an invalid entry at each place among them.
+func allInvalidLists() map[string][]impl.Entry {
 	lists := greatInvalidLists()
 	for i, e := range slices.DeleteFunc(manyEntries(), isEntry) {
 		number := " " + impl.DecText(i)
@@ -249,6 +248,13 @@ func checkRefused(t *testing.T, name string, put func([]impl.Entry) (string, boo
 		lists["an invalid last entry"+number] = []impl.Entry{file("a/f", ""), dir("z"), e}
 		lists["an invalid first entry"+number] = []impl.Entry{e, file("z", "")}
 	}
+	return lists
+}
+
+// checkRefused fails unless the writer refuses all invalid lists.
+func checkRefused(t *testing.T, name string, put func([]impl.Entry) (string, bool)) {
+	t.Helper()
+	lists := allInvalidLists()
 	if len(lists) < 300 {
 		t.Errorf("there are only %d invalid lists", len(lists))
 	}
