@@ -218,10 +218,10 @@ func TestCardPathLengths(t *testing.T) {
 
 const greatestData = 8589934591 // the greatest number of eleven octal digits
 
-// muchData returns more than greatestData bytes that take no memory: nothing is ever written there.
-func muchData(t *testing.T) string {
+// muchText returns a text that takes no memory: nothing is ever written there.
+func muchText(t *testing.T, length int) string {
 	t.Helper()
-	data, err := syscall.Mmap(-1, 0, greatestData+10, syscall.PROT_READ, syscall.MAP_ANON|syscall.MAP_PRIVATE)
+	data, err := syscall.Mmap(-1, 0, length, syscall.PROT_READ, syscall.MAP_ANON|syscall.MAP_PRIVATE)
 	if err != nil {
 		t.Fatal(err)
 	}
@@ -233,25 +233,18 @@ func muchData(t *testing.T) string {
 	return unsafe.String(&data[0], len(data))
 }
 
-func TestCardWithTooMuchData(t *testing.T) {
-	data := muchData(t)
-	for _, length := range []int{greatestData + 1, greatestData + 2, greatestData + 10} {
-		if got := impl.PutCard(impl.Card{Path: "a", Data: data[:length]}); got != "" {
-			t.Errorf("PutCard of %d bytes of Data has %d bytes", length, len(got))
-		}
-	}
-}
-
-// A card with the greatest Data takes 8 GiB. So another process tries it without that memory: it ends for want of it unless PutCard refuses the Data.
-func TestCardWithTheGreatestData(t *testing.T) {
-	const refused = "PutCard refuses the greatest Data"
-	if os.Getenv("ODC_GREATEST_DATA") != "" {
-		data := muchData(t)
-		const limit = greatestData + 4<<30
+// checkTaken fails unless put, whose result takes more memory than a text of that length, does not refuse the text.
+// So another process tries it without that memory: it ends for want of it unless put refuses the text.
+func checkTaken(t *testing.T, length int, put func(text string) string) {
+	t.Helper()
+	const refused = "the text is refused"
+	if os.Getenv("TRY_WITHOUT_MEMORY") != "" {
+		text := muchText(t, length)
+		limit := uint64(length) / 4 * 7
 		if err := syscall.Setrlimit(syscall.RLIMIT_AS, &syscall.Rlimit{Cur: limit, Max: limit}); err != nil {
 			t.Fatal(err)
 		}
-		if impl.PutCard(impl.Card{Path: "a", Data: data[:greatestData]}) == "" {
+		if put(text) == "" {
 			t.Fatal(refused)
 		}
 		return
@@ -260,13 +253,29 @@ func TestCardWithTheGreatestData(t *testing.T) {
 	if err != nil {
 		t.Fatal(err)
 	}
-	try := exec.Command(program, "-test.run=^TestCardWithTheGreatestData$")
-	try.Env = append(os.Environ(), "ODC_GREATEST_DATA=1")
+	try := exec.Command(program, "-test.run=^"+strings.ReplaceAll(t.Name(), "/", "$/^")+"$")
+	try.Env = append(os.Environ(), "TRY_WITHOUT_MEMORY=1")
 	said, err := try.CombinedOutput()
 	if err == nil || strings.Contains(string(said), refused) || !strings.Contains(string(said), "out of memory") {
 		t.Errorf("the other process says %.1000s, %v", said, err)
 	}
-	// In an archive that length is a number like any other, here one of Data that is not complete.
+}
+
+func TestCardWithTooMuchData(t *testing.T) {
+	data := muchText(t, greatestData+10)
+	for _, length := range []int{greatestData + 1, greatestData + 2, greatestData + 10} {
+		if got := impl.PutCard(impl.Card{Path: "a", Data: data[:length]}); got != "" {
+			t.Errorf("PutCard of %d bytes of Data has %d bytes", length, len(got))
+		}
+	}
+}
+
+func TestCardWithTheGreatestData(t *testing.T) {
+	checkTaken(t, greatestData, func(data string) string { return impl.PutCard(impl.Card{Path: "a", Data: data}) })
+}
+
+// In an archive the greatest length is a number like any other, here one of Data that is not complete.
+func TestCardWithTheGreatestLengths(t *testing.T) {
 	card := cardText(impl.Card{Path: "a", Data: "x"})
 	checkNoCard(t, "a card with the greatest length of Data", with(card, 65, "77777777777"), 0, impl.RdCut)
 	checkNoCard(t, "a card with the greatest lengths", with(card, 59, "77777777777777777"), 0, impl.RdCut)

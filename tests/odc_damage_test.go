@@ -12,23 +12,23 @@ import (
 
 // Promise 7, an archive that GetOdc accepts is PutOdc of what it returned: GetOdc of what PutOdc did not write, and the conventions.
 
-// odcRead says what GetOdc returns in other words than the program does.
-func odcRead(s string) ([]impl.Entry, int) {
+// readBy says what the reader of a format returns in other words than the program does, with at for its cards and end for its trailer.
+func readBy(s string, at func(s string, i int) (impl.Card, int, int), end string) ([]impl.Entry, int) {
 	var cards []impl.Card
-	for at := 0; at < len(s); {
-		c, next, code := cardAt(s, at)
+	for i := 0; i < len(s); {
+		c, next, code := at(s, i)
 		if code != impl.RdOk {
 			return nil, code
 		}
 		if c.Path != trailer {
 			cards = append(cards, c)
-			at = next
+			i = next
 			continue
 		}
 		if next < len(s) {
 			return nil, impl.RdEnd
 		}
-		if lists := sources(cards); len(lists) == 1 && s[at:] == trailerText {
+		if lists := sources(cards); len(lists) == 1 && s[i:] == end {
 			return lists[0], impl.RdOk
 		}
 		return nil, impl.RdBad
@@ -39,7 +39,7 @@ func odcRead(s string) ([]impl.Entry, int) {
 // judgeOdc fails unless GetOdc reads what the bytes tell, and accepts only what PutOdc writes. It returns the code.
 func judgeOdc(t *testing.T, s string) int {
 	t.Helper()
-	want, wantCode := odcRead(s)
+	want, wantCode := readBy(s, cardAt, trailerText)
 	got, code := impl.GetOdc(s)
 	if code != wantCode || !impl.SameList(got, want) {
 		t.Fatalf("%.2000q is read as %+v, %d; want %+v, %d", s, got, code, want, wantCode)
