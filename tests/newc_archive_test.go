@@ -1,7 +1,6 @@
 package tests
 
 import (
-	"slices"
 	"strings"
 	"testing"
 
@@ -14,6 +13,31 @@ import (
 func newTrailer(crc bool) string {
 	return newMagics[crc] + "00000000" + "00000000" + "00000000" + "00000000" + "00000001" + "00000000" + "00000000" +
 		"00000000" + "00000000" + "00000000" + "00000000" + "0000000b" + "00000000" + trailer + "\x00" + "\x00\x00\x00"
+}
+
+// newForms returns the format without checksums and with them.
+func newForms(t *testing.T) []cardForm {
+	var forms []cardForm
+	for _, crc := range []bool{false, true} {
+		forms = append(forms, cardForm{
+			name: newMagics[crc],
+			put:  func(list []impl.Entry) (string, bool) { return impl.PutNewc(list, crc) },
+			get: func(s string) ([]impl.Entry, int) {
+				list, got, code := impl.GetNewc(s)
+				if got != (crc && code == impl.RdOk) {
+					t.Errorf("GetNewc of %.200q with checksums, %v, returns %v, %d", s, crc, got, code)
+				}
+				return list, code
+			},
+			putCard:  func(c impl.Card) string { return impl.PutNew(c, crc) },
+			getCard:  func(s string, i int) (impl.Card, int, int) { return impl.GetNew(s, i, crc) },
+			text:     func(c impl.Card) string { return newText(c, crc) },
+			unit:     4,
+			reduced:  reducedToNew,
+			greatest: greatestNew,
+		})
+	}
+	return forms
 }
 
 // newTexts returns the cards of a list as they stand in an archive, whether it is valid or not.
@@ -62,22 +86,16 @@ func checkNoNewc(t *testing.T, name string, s string, want int) {
 // checkNewcOf fails unless the list that fits is written as its cards and the trailer, and comes back from that, with and without checksums.
 func checkNewcOf(t *testing.T, name string, list []impl.Entry) {
 	t.Helper()
-	for crc := range newMagics {
-		want := newcOf(list, crc)
-		if s, ok := impl.PutNewc(list, crc); s != want || !ok {
-			t.Errorf("PutNewc of %s, %v, is %.300q, %v; want %.300q", name, crc, s, ok, want)
-		}
-		checkNewc(t, name, want, list, crc)
+	for _, f := range newForms(t) {
+		f.checkWritten(t, name, list)
 	}
 }
 
 // checkNoNewcOf fails unless PutNewc refuses the list.
 func checkNoNewcOf(t *testing.T, name string, list []impl.Entry) {
 	t.Helper()
-	for crc := range newMagics {
-		if s, ok := impl.PutNewc(list, crc); s != "" || ok {
-			t.Errorf("PutNewc of %s, %v, has %d bytes, %v", name, crc, len(s), ok)
-		}
+	for _, f := range newForms(t) {
+		f.checkNotWritten(t, name, list)
 	}
 }
 
@@ -189,64 +207,23 @@ func TestNewcLayout(t *testing.T) {
 
 // The promise, for all lists that fit.
 func TestNewcListComesBack(t *testing.T) {
-	fit := 0
-	kinds := map[int]int{}
-	check := func(list []impl.Entry) {
-		if !isList(list) {
-			return
-		}
-		checkNewcOf(t, "a list that fits", list)
-		fit++
-		for _, e := range list {
-			kinds[e.Kind]++
-		}
-	}
-	for _, list := range someGnuLists() {
-		check(reducedToNew(list))
-	}
-	for _, e := range odcEntries() {
-		list := []impl.Entry{file("a/f", "body"), e}
-		if e.Kind == impl.KFile {
-			list = []impl.Entry{e, hard("z/h", e.Path)}
-		}
-		if fitsNew(e) {
-			check(list)
-		}
-	}
-	for kind := range 4 {
-		if kinds[kind] < 200 {
-			t.Errorf("there are only %d entries of the kind %d", kinds[kind], kind)
-		}
-	}
-	if fit < 1000 {
-		t.Errorf("only %d lists fit", fit)
+	for _, f := range newForms(t) {
+		f.checkListsComeBack(t, odcEntries(), fitsNew)
 	}
 }
 
 func TestNewcBodiesComeBack(t *testing.T) {
-	for _, size := range append(bodySizes(), 3, 4, 5, 6, 7, 8, 2997, 2998) {
-		for _, fill := range []string{"\x00", "x", "\xff", "070701", newTrailer(true)} {
-			body := strings.Repeat(fill, size/len(fill)+1)[:size]
-			checkNewcOf(t, "a body", []impl.Entry{file("a", body), hard("h", "a"), file("b", body)})
-		}
+	for _, f := range newForms(t) {
+		f.checkBodies(t, "070701", newTrailer(true))
+		// Bodies whose sums are equal, among them those whose sum is 0.
+		f.checkWritten(t, "equal sums", []impl.Entry{file("a", "ab"), file("b", "ba"), file("c", ""), file("d", "\x00"), file("e", "\x00\x00\x00\x00\x00")})
 	}
-	checkNewcOf(t, "every byte", []impl.Entry{file("a", everyByte())})
-	checkNewcOf(t, "files without a body", []impl.Entry{file("a", ""), file("b", ""), hard("h", "b"), hard("i", "a")})
-	// Bodies whose sums are equal, among them those whose sum is 0.
-	checkNewcOf(t, "equal sums", []impl.Entry{file("a", "ab"), file("b", "ba"), file("c", ""), file("d", "\x00"), file("e", "\x00\x00\x00\x00\x00")})
 }
 
 // Names, bodies and links of every length modulo 4, one entry behind the other.
 func TestNewcPadding(t *testing.T) {
-	for pathSize := 1; pathSize <= 9; pathSize++ {
-		for dataSize := range 9 {
-			path, data := strings.Repeat("p", pathSize), strings.Repeat("d", dataSize)
-			list := []impl.Entry{file(path, data), dir(path + "d"), file(path+"ee", ""), hard(path+"hhh", path)}
-			if dataSize > 0 {
-				list = append(list, sym(path+"ssss", data))
-			}
-			checkNewcOf(t, "padding", list)
-		}
+	for _, f := range newForms(t) {
+		f.checkPadding(t, 9)
 	}
 }
 
@@ -260,70 +237,20 @@ func TestNewcInNewc(t *testing.T) {
 }
 
 func TestNewcManyEntries(t *testing.T) {
-	for _, length := range []int{1, 2, 29, 30} {
-		checkNewcOf(t, "many files", files(length))
-		var links []impl.Entry
-		for i, e := range files(length) {
-			if i > 0 {
-				e = hard(e.Path, "f")
-			}
-			links = append(links, e)
-		}
-		checkNewcOf(t, "a file with many links", links)
-	}
-	checkNewcOf(t, "30 entries of every kind", reducedToNew(greatList()))
-	for _, length := range []int{31, 32, 60} {
-		checkNoNewcOf(t, "too many entries", files(length))
-		for crc := range newMagics {
-			checkNoNewc(t, "too many entries", newcOf(files(length), crc), impl.RdBad)
-		}
+	for _, f := range newForms(t) {
+		f.checkManyEntries(t)
 	}
 }
 
 func TestPutNewcRefuses(t *testing.T) {
-	for crc := range newMagics {
-		checkRefused(t, "PutNewc", func(list []impl.Entry) (string, bool) { return impl.PutNewc(list, crc) })
+	for _, f := range newForms(t) {
+		f.checkRefuses(t, odcEntries(), fitsNew)
 	}
-	refused := 0
-	for _, e := range odcEntries() {
-		if fitsNew(e) {
-			continue
-		}
-		refused++
-		for _, list := range [][]impl.Entry{{e}, {file("a/f", ""), dir("z"), e}, {e, file("z", "")}} {
-			checkNoNewcOf(t, "an entry that does not fit", list)
-		}
-	}
-	if refused < 200 {
-		t.Errorf("only %d entries do not fit", refused)
-	}
-	checkNoNewcOf(t, "a 30th entry that does not fit", append(files(29), impl.Entry{Path: "z", Time: 4294967296}))
-	checkNoNewcOf(t, "a hard link ahead of its file", []impl.Entry{hard("h", "f"), file("f", "x")})
-	checkNoNewcOf(t, "a hard link to a hard link", []impl.Entry{file("f", "x"), hard("g", "f"), hard("h", "g")})
 }
 
 // The cards of an archive are those of its list, one behind the other, each from a multiple of 4 on.
 func TestNewcIsCards(t *testing.T) {
-	for _, list := range [][]impl.Entry{nil, oneOfEach(), files(30), reducedToNew(greatList())} {
-		for crc := range newMagics {
-			s, ok := impl.PutNewc(list, crc)
-			if !ok {
-				t.Fatal("PutNewc fails")
-			}
-			var cards []impl.Card
-			at := 0
-			for at < len(s) {
-				c, next, code := impl.GetNew(s, at, crc)
-				if code != impl.RdOk || at%4 != 0 || s[at:next] != impl.PutNew(c, crc) {
-					t.Fatalf("the card at %d is %+v, %d", at, c, code)
-				}
-				cards = append(cards, c)
-				at = next
-			}
-			want := append(impl.CardsOf(list), impl.Card{Count: 1, Path: trailer})
-			if !slices.Equal(cards, want) {
-				t.Errorf("the archive has the cards %+v, want %+v", cards, want)
-			}
-		}
+	for _, f := range newForms(t) {
+		f.checkIsCards(t)
 	}
 }
