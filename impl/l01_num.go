@@ -53,21 +53,11 @@ func GetHex(s string) (int, bool) {
 }
 
 func PutDec(n int, width int) (string, bool) {
-	digits, ok := fieldDigits(n, width, 10)
-	if !ok {
-		return "", false
-	}
-	return digits + strings.Repeat(" ", width-len(digits)), true
+	return putSpaced(n, width, 10)
 }
 
 func GetDec(s string) (int, bool) {
-	n, _ := leadNumber(s, 10)
-	// Writing the number again refuses leading zeros and whatever follows the digits other than spaces.
-	again, ok := PutDec(n, len(s))
-	if !ok || again != s {
-		return 0, false
-	}
-	return n, true
+	return getSpaced(s, 10)
 }
 
 func PutBig(n int, width int) (string, bool) {
@@ -175,6 +165,31 @@ func fieldDigits(n int, width int, base int) (string, bool) {
 // zeros pads digits, of which there are at most width.
 func zeros(digits string, width int) string {
 	return strings.Repeat("0", width-len(digits)) + digits
+}
+
+// putSpaced writes n without leading zeros and with trailing spaces.
+func putSpaced(n int, width int, base int) (string, bool) {
+	digits, ok := fieldDigits(n, width, base)
+	if !ok {
+		return "", false
+	}
+	return spaces(digits, width), true
+}
+
+// getSpaced returns the number that putSpaced writes as s, and false if there is none.
+func getSpaced(s string, base int) (int, bool) {
+	n, _ := leadNumber(s, base)
+	// Writing the number again refuses leading zeros and whatever follows the digits other than spaces.
+	again, ok := putSpaced(n, len(s), base)
+	if !ok || again != s {
+		return 0, false
+	}
+	return n, true
+}
+
+// spaces pads s, which has at most width bytes.
+func spaces(s string, width int) string {
+	return s + strings.Repeat(" ", width-len(s))
 }
 
 // wholeNumber returns the value of s, and false if s is empty or leadNumber stops before its end.
